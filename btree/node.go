@@ -109,7 +109,7 @@ func (n node) joined(i int, kid node) node {
 		kids:  slices.Concat(kid.kids, right.kids),
 	}
 	less := node{items: replaced(n.items, i, i+1), kids: replaced(n.kids, i+1, i+2)}
-	// If the sister had keys to spare, both are too many in one: they are parted again, and each has its share.
+	// If both are too many for one node they are parted again: so the kid has got keys, and kids, of its sister.
 	return less.withKid(i, both)
 }
 
