@@ -893,6 +893,29 @@ func TestTreesAreApart(t *testing.T) {
 	sound(t, "y", y, 50)
 }
 
+// A copy of the struct is a tree of its own, as the table of layer 14 takes it.
+func TestCopiesAreApart(t *testing.T) {
+	l := numbered(300)
+	x, m := treeOf(l), modelOf(l)
+	y := *x
+	for i, key := range l {
+		if i%3 == 0 {
+			x.Drop(key)
+		} else {
+			x.Put(key, "other")
+		}
+		x.Put(key+"new", "")
+	}
+	same(t, "the copy", &y, m)
+	x = treeOf(l)
+	z := *x
+	for _, key := range l {
+		z.Drop(key)
+	}
+	same(t, "what was copied", x, m)
+	same(t, "the copy without keys", &z, nil)
+}
+
 func TestTheSameCallsAnswerTheSame(t *testing.T) {
 	run := func() []string {
 		r := rand.New(rand.NewSource(10))

@@ -945,3 +945,29 @@ func TestGreatTable(t *testing.T) {
 		t.Error(x.Len(), c.Len())
 	}
 }
+
+// A clone that is only looked at costs nothing, however great the table is; one that is changed leaves the other as it was.
+func TestClonesOfAGreatTable(t *testing.T) {
+	const n = 5000
+	x := New()
+	x.AddIndex("a")
+	for i := range n {
+		x.Put(row(uint64(i), 0, num(int64(i))))
+	}
+	looked := testing.AllocsPerRun(20, func() {
+		if d, is := x.Clone().Get(n / 2); !is || d.Doc != n/2 {
+			t.Error(d, is)
+		}
+	})
+	if looked > 50 {
+		t.Error("to look at a clone takes", looked, "pieces of memory")
+	}
+	for i := range 50 {
+		c := x.Clone()
+		x.Put(row(uint64(i), 1, num(int64(i+n))))
+		c.Drop(uint64(i))
+		if x.Len() != n || c.Len() != n-1 || len(numbers(x.Range("a", keys.Equal(value.Int(int64(i+n)))))) != 1 {
+			t.Fatal(i, x.Len(), c.Len())
+		}
+	}
+}
